@@ -56,6 +56,10 @@ func (f form) isTypeWith(head string) bool {
 	return len(f.parts) == 3 && f.parts[0].atom == head && f.parts[1].isType() && f.parts[2].isType()
 }
 
+func (f form) isTypeInLimit() bool {
+	return f.size <= TypeMax && f.isType()
+}
+
 func (f form) order() int {
 	if f.isAtom() {
 		return 0
@@ -178,7 +182,7 @@ func readForm(s string) (form, bool) {
 
 func readType(s string) (form, bool) {
 	f, ok := readForm(s)
-	if !ok || f.size > TypeMax || !f.isType() {
+	if !ok || !f.isTypeInLimit() {
 		return form{}, false
 	}
 	return f, true
