@@ -1,6 +1,9 @@
 package impl
 
-import "strings"
+import (
+	"slices"
+	"strings"
+)
 
 // FormMax is the greatest number of bytes of a form.
 const FormMax = 12000
@@ -36,6 +39,10 @@ func newList(parts []form) form {
 	return list
 }
 
+func (f form) equals(other form) bool {
+	return f.atom == other.atom && slices.EqualFunc(f.parts, other.parts, form.equals)
+}
+
 func (f form) isAtom() bool {
 	return len(f.parts) == 0
 }
@@ -58,6 +65,14 @@ func (f form) isTypeWith(head string) bool {
 
 func (f form) isTypeInLimit() bool {
 	return f.size <= TypeMax && f.isType()
+}
+
+// sides are the types A and B of a type with a head.
+func (f form) sides(head string) (form, form, bool) {
+	if !f.isTypeWith(head) {
+		return form{}, form{}, false
+	}
+	return f.parts[1], f.parts[2], true
 }
 
 func (f form) order() int {
@@ -188,13 +203,23 @@ func readType(s string) (form, bool) {
 	return f, true
 }
 
-// typeSides returns the types A and B of a type with a head.
+// typeSides is what TypeFun and TypePair return, each with its head.
 func typeSides(s string, head string) (string, string, bool) {
 	f, ok := readType(s)
-	if !ok || !f.isTypeWith(head) {
+	if !ok {
 		return "", "", false
 	}
-	return f.parts[1].text(), f.parts[2].text(), true
+	first, second, ok := f.sides(head)
+	if !ok {
+		return "", "", false
+	}
+	return first.text(), second.text(), true
+}
+
+// makeType is the type with a head and two types as its sides.
+func makeType(head string, first form, second form) (form, bool) {
+	made := newList([]form{newAtom(head), first, second})
+	return made, made.size <= TypeMax
 }
 
 // FormValid reports whether a text is a form.
@@ -343,8 +368,8 @@ func TypeMake(fun bool, a string, b string) (string, bool) {
 	if fun {
 		head = ">"
 	}
-	made := newList([]form{newAtom(head), first, second})
-	if made.size > TypeMax {
+	made, ok := makeType(head, first, second)
+	if !ok {
 		return "", false
 	}
 	return made.text(), true
